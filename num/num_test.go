@@ -127,13 +127,15 @@ func TestErrBig(t *testing.T) {
 	most := nines(2000)
 	great := api.Num("1" + zeros(1999))
 	for what, f := range map[string]func() (api.Num, api.Errno){
-		"Add":         func() (api.Num, api.Errno) { return Add(most, "1") },
-		"Add below":   func() (api.Num, api.Errno) { return Add("1/"+most, "-1/"+great) },
-		"Add i":       func() (api.Num, api.Errno) { return Add(most+"i", "i") },
-		"Sub":         func() (api.Num, api.Errno) { return Sub("-"+most, "1") },
-		"Mul":         func() (api.Num, api.Errno) { return Mul(great, "10") },
-		"Mul i":       func() (api.Num, api.Errno) { return Mul(great+"i", "10") },
-		"Mul near 1":  func() (api.Num, api.Errno) { return Mul(most+"/"+great+"+"+great+"/"+most+"i", most+"/"+great+"-"+great+"/"+most+"i") },
+		"Add":       func() (api.Num, api.Errno) { return Add(most, "1") },
+		"Add below": func() (api.Num, api.Errno) { return Add("1/"+most, "-1/"+great) },
+		"Add i":     func() (api.Num, api.Errno) { return Add(most+"i", "i") },
+		"Sub":       func() (api.Num, api.Errno) { return Sub("-"+most, "1") },
+		"Mul":       func() (api.Num, api.Errno) { return Mul(great, "10") },
+		"Mul i":     func() (api.Num, api.Errno) { return Mul(great+"i", "10") },
+		"Mul near 1": func() (api.Num, api.Errno) {
+			return Mul(most+"/"+great+"+"+great+"/"+most+"i", most+"/"+great+"-"+great+"/"+most+"i")
+		},
 		"Div":         func() (api.Num, api.Errno) { return Div("1/"+great, "10") },
 		"Norm":        func() (api.Num, api.Errno) { return Norm(most) },
 		"Power":       func() (api.Num, api.Errno) { return Power("1"+api.Num(zeros(1000)), 2) },

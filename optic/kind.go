@@ -3,6 +3,7 @@ package optic
 import (
 	"ringdown/api"
 	"ringdown/num"
+	"ringdown/short"
 )
 
 // kind is what all elements of a kind share: their word in a text, how many ports they have, which of their fields are numbers (in the order of the text), whether such numbers are valid, and what goes out at a port.
@@ -57,7 +58,7 @@ func noNumbers(*api.Element) []*api.Num { return nil }
 
 func ratiosOf(e *api.Element) []*api.Num { return []*api.Num{&e.Reflect, &e.Transmit} }
 
-func hasShortAmplitude(e api.Element) bool { return isShort(e.Amplitude) }
+func hasShortAmplitude(e api.Element) bool { return short.Is(e.Amplitude) }
 
 func always(api.Element) bool { return true }
 

@@ -2,11 +2,10 @@ package optic
 
 import (
 	"slices"
-	"strconv"
-	"strings"
 
 	"ringdown/api"
 	"ringdown/num"
+	"ringdown/short"
 )
 
 // sure returns a result of num where no error is possible: the numbers are valid, and those that are calculated from short ones never become too long.
@@ -21,30 +20,10 @@ func compare(a, b api.Num) int {
 	return order
 }
 
-// isShort says that a is a number whose numerators and denominators are at most MaxShort.
-func isShort(a api.Num) bool {
-	for _, partOf := range [2]func(api.Num) (api.Num, api.Errno){num.Re, num.Im} {
-		x, e := partOf(a)
-		if e != api.OK {
-			return false
-		}
-		top, bottom, hasBottom := strings.Cut(strings.TrimPrefix(string(x), "-"), "/")
-		if !isSmall(top) || hasBottom && !isSmall(bottom) {
-			return false
-		}
-	}
-	return true
-}
-
-func isSmall(digits string) bool {
-	n, err := strconv.Atoi(digits)
-	return err == nil && n <= api.MaxShort
-}
-
-func isTurn(t api.Num) bool { return isShort(t) && power(t) == "1" }
+func isTurn(t api.Num) bool { return short.Is(t) && power(t) == "1" }
 
 // isRatio says that a is a short real number from 0 on.
-func isRatio(a api.Num) bool { return isShort(a) && num.IsReal(a) && compare(a, "0") >= 0 }
+func isRatio(a api.Num) bool { return short.IsReal(a) && compare(a, "0") >= 0 }
 
 func areElements(elements []api.Element) bool {
 	seen := map[string]bool{}

@@ -1,4 +1,4 @@
-// Package short says which numbers are short (chapter 2), which several layers ask for.
+// Package short says how long the numbers are that several layers ask for: which are short (chapter 2), and which have few decimal places (chapter 6).
 package short
 
 import (
@@ -16,8 +16,8 @@ func Is(a api.Num) bool {
 		if e != api.OK {
 			return false
 		}
-		top, bottom, hasBottom := strings.Cut(strings.TrimPrefix(string(x), "-"), "/")
-		if !isSmall(top) || hasBottom && !isSmall(bottom) {
+		top, bottom := fraction(x)
+		if !isSmall(top) || !isSmall(bottom) {
 			return false
 		}
 	}
@@ -26,6 +26,21 @@ func Is(a api.Num) bool {
 
 // IsReal reports whether a is short and real.
 func IsReal(a api.Num) bool { return num.IsReal(a) && Is(a) }
+
+// HasFewPlaces reports whether a is a real number whose numerator and denominator have at most MaxPlaces digits.
+func HasFewPlaces(a api.Num) bool {
+	top, bottom := fraction(a)
+	return num.IsReal(a) && len(top) <= api.MaxPlaces && len(bottom) <= api.MaxPlaces
+}
+
+// fraction returns the digits of the numerator and of the denominator of a real number.
+func fraction(x api.Num) (top, bottom string) {
+	top, bottom, isFraction := strings.Cut(strings.TrimPrefix(string(x), "-"), "/")
+	if !isFraction {
+		bottom = "1"
+	}
+	return top, bottom
+}
 
 func isSmall(digits string) bool {
 	n, err := strconv.Atoi(digits)

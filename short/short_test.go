@@ -23,3 +23,18 @@ func TestIs(t *testing.T) {
 		}
 	}
 }
+
+func TestHasFewPlaces(t *testing.T) {
+	most := api.Num("1" + strings.Repeat("0", 199))
+	odd := api.Num(strings.Repeat("7", 200))
+	for _, a := range []api.Num{"0", "1", "-1", "1/3", "-2/3", most, "-" + most, "1/" + most, "-1/" + most, odd, "-" + odd, most + "/" + odd, "-" + most + "/" + odd} {
+		if !HasFewPlaces(a) {
+			t.Errorf("%q", a)
+		}
+	}
+	for _, a := range []api.Num{most + "0", "-" + most + "0", "1/" + most + "0", "-1/" + most + "0", odd + "7", odd + "7/2", "1/" + odd + "7", "i", "1+i", "1/2i", "", "x", "2/4", "-", "/", "1/", "+1", "01", "-0", odd + "/" + odd, api.Num(strings.Repeat("1", 2001))} {
+		if HasFewPlaces(a) {
+			t.Errorf("%q", a)
+		}
+	}
+}
